@@ -63,6 +63,20 @@ func (w word) turned() iter.Seq[letter] {
 	}
 }
 
+// inverse returns the inverse of the word.
+func (w word) inverse() word {
+	return reduced(w.turned())
+}
+
+// put returns the word with a word for each generator in the place of its letters, reduced at last.
+func (w word) put(images []word) word {
+	var parts []iter.Seq[letter]
+	for x := range w.letters(1) {
+		parts = append(parts, images[x.index()].letters(x.sign()))
+	}
+	return reduced(parts...)
+}
+
 // with returns the word with a letter behind, reduced. It may write to the memory of the word.
 func (w word) with(x letter) word {
 	last := len(w) - 1
@@ -141,6 +155,14 @@ func wordsOf(list ...string) ([]word, bool) {
 	return words, true
 }
 
+// imagesOf returns the letters of four words, one for each generator, and true.
+func imagesOf(list []string) ([]word, bool) {
+	if len(list) != generatorCount {
+		return nil, false
+	}
+	return wordsOf(list...)
+}
+
 // WordIn reports whether a text is a word.
 func WordIn(s string) bool {
 	_, ok := wordOf(s)
@@ -174,7 +196,7 @@ func WordTurned(s string) (string, bool) {
 	if !ok {
 		return "", false
 	}
-	return reduced(w.turned()).told()
+	return w.inverse().told()
 }
 
 // WordPower returns a word as often behind itself as told, its inverse for negative numbers, reduced, and true.
@@ -211,22 +233,15 @@ func WordSums(s string) ([]int, bool) {
 
 // WordPut returns the word with four words, one for each generator, put in the place of its letters, their inverses for inverse letters, reduced at last, and true.
 func WordPut(s string, list []string) (string, bool) {
-	if len(list) != generatorCount {
+	images, ok := imagesOf(list)
+	if !ok {
 		return "", false
 	}
 	w, ok := wordOf(s)
 	if !ok {
 		return "", false
 	}
-	images, ok := wordsOf(list...)
-	if !ok {
-		return "", false
-	}
-	var parts []iter.Seq[letter]
-	for x := range w.letters(1) {
-		parts = append(parts, images[x.index()].letters(x.sign()))
-	}
-	return reduced(parts...).told()
+	return w.put(images).told()
 }
 
 // WordCore returns the word that is left when the first and the last letter are taken out as long as they are inverse to each other, and true.
