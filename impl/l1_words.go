@@ -86,16 +86,21 @@ func (w word) with(x letter) word {
 	return append(w, x)
 }
 
+// text returns the letters of the word as a text.
+func (w word) text() string {
+	text := make([]byte, len(w))
+	for i, x := range w {
+		text[i] = byte(x)
+	}
+	return string(text)
+}
+
 // told returns the word as a text, and true, unless it has too many letters.
 func (w word) told() (string, bool) {
 	if len(w) > LettersMax {
 		return "", false
 	}
-	text := make([]byte, len(w))
-	for i, x := range w {
-		text[i] = byte(x)
-	}
-	return string(text), true
+	return w.text(), true
 }
 
 // signsOf yields the bytes of a text as letters, known ones or not.
