@@ -60,13 +60,13 @@ func coreSlowly(s string) string {
 	return s
 }
 
-// allTexts returns all texts of at most n letters.
-func allTexts(n int) []string {
+// textsOf returns all texts of at most n of some letters, shorter ones first, of one length in the order of the letters.
+func textsOf(letters string, n int) []string {
 	texts, last := []string{""}, []string{""}
 	for range n {
 		var next []string
 		for _, s := range last {
-			for _, sign := range signs {
+			for _, sign := range letters {
 				next = append(next, s+string(sign))
 			}
 		}
@@ -74,6 +74,11 @@ func allTexts(n int) []string {
 		last = next
 	}
 	return texts
+}
+
+// allTexts returns all texts of at most n letters.
+func allTexts(n int) []string {
+	return textsOf(signs, n)
 }
 
 // allWords returns all words of at most n letters.

@@ -243,11 +243,16 @@ func wantGathered(t *testing.T, call string, got terms, ok bool, list terms) {
 // wantOwnMemory calls f with sums that have room behind them, and wants these and that to be left when the result is changed and grows.
 func wantOwnMemory(t *testing.T, call string, f func(a, b terms) terms) {
 	t.Helper()
+	wantOwnMemoryWith(t, call, append(smallSums(), terms{term(million, "d")}, grid(12, 1)), f)
+}
+
+// wantOwnMemoryWith does so with lists of terms that it is given.
+func wantOwnMemoryWith(t *testing.T, call string, sums []terms, f func(a, b terms) terms) {
+	t.Helper()
 	room := func(list terms) (terms, terms) {
 		whole := append(slices.Clone(list), term(11, "x"), term(12, "y"))
 		return whole[:len(list)], whole
 	}
-	sums := append(smallSums(), terms{term(million, "d")}, grid(12, 1))
 	for _, x := range sums {
 		for _, y := range sums {
 			a, wholeA := room(x)
