@@ -29,27 +29,7 @@ func TestPromise11ShortLists(t *testing.T) {
 		term(1, ""), term(-2, "A"), term(1, "B"), term(million, "a"), term(0, "a"), term(-million, "b"), term(1, "d"),
 		term(1, "aB"), term(3, "ab"), term(1, "ba"), term(1, "aA"), term(million+1, "b"), term(1, times("a", 60)), term(1, times("a", 61)),
 	}
-	lists := []terms{{}}
-	for range 3 {
-		for _, list := range lists {
-			for _, x := range pool {
-				lists = append(lists, append(slices.Clone(list), x))
-			}
-		}
-	}
-	held := 0
-	for _, list := range lists {
-		want := isSumSlowly(list)
-		if got := impl.SumIn(list); got != want {
-			t.Errorf("SumIn of %s is %v", brief(list), got)
-		}
-		if want {
-			held++
-		}
-	}
-	if held < 100 {
-		t.Errorf("only %d lists are sums", held)
-	}
+	wantOfShortLists(t, "SumIn", pool, impl.SumIn, isSumSlowly)
 }
 
 func TestPromise11Order(t *testing.T) {

@@ -17,29 +17,28 @@ func TestDegreeMax(t *testing.T) {
 
 // Promise 26: If SeriesIn holds, SeriesTimes of it and 1, on both sides, is it.
 
+// wantSeriesTimesOne wants a list to be a series, and its products with 1 to be it.
+func wantSeriesTimesOne(t *testing.T, list terms) {
+	t.Helper()
+	if !impl.SeriesIn(list) {
+		t.Errorf("SeriesIn of %s does not hold", brief(list))
+	}
+	got, ok := impl.SeriesTimes(list, one())
+	wantSum(t, brief(list)+" times 1", got, ok, list)
+	got, ok = impl.SeriesTimes(one(), list)
+	wantSum(t, "1 times "+brief(list), got, ok, list)
+}
+
 func TestPromise26Series(t *testing.T) {
 	for _, list := range allSeries() {
-		if !impl.SeriesIn(list) {
-			t.Errorf("SeriesIn of %s does not hold", brief(list))
-		}
-		got, ok := impl.SeriesTimes(list, one())
-		wantSum(t, brief(list)+" times 1", got, ok, list)
-		got, ok = impl.SeriesTimes(one(), list)
-		wantSum(t, "1 times "+brief(list), got, ok, list)
+		wantSeriesTimesOne(t, list)
 	}
 }
 
 func TestPromise26Monomials(t *testing.T) {
 	for _, m := range allMonomials(4) {
 		for _, n := range []int{1, -1, 17, million, -million} {
-			list := terms{term(n, m)}
-			if !impl.SeriesIn(list) {
-				t.Errorf("SeriesIn of %s does not hold", brief(list))
-			}
-			got, ok := impl.SeriesTimes(list, one())
-			wantSum(t, brief(list)+" times 1", got, ok, list)
-			got, ok = impl.SeriesTimes(one(), list)
-			wantSum(t, "1 times "+brief(list), got, ok, list)
+			wantSeriesTimesOne(t, terms{term(n, m)})
 		}
 	}
 }
@@ -49,27 +48,7 @@ func TestPromise26ShortLists(t *testing.T) {
 		term(1, ""), term(million, "a"), term(0, "a"), term(-million, "b"), term(1, "A"), term(1, "d"), term(3, "ab"), term(1, "ba"), term(1, "aA"),
 		term(million+1, "b"), term(-million-1, "c"), term(-2, "abcd"), term(1, "dddd"), term(1, "aaaaa"), term(1, "abcD"),
 	}
-	lists := []terms{{}}
-	for range 3 {
-		for _, list := range lists {
-			for _, x := range pool {
-				lists = append(lists, append(slices.Clone(list), x))
-			}
-		}
-	}
-	held := 0
-	for _, list := range lists {
-		want := isSeriesSlowly(list)
-		if got := impl.SeriesIn(list); got != want {
-			t.Errorf("SeriesIn of %s is %v", brief(list), got)
-		}
-		if want {
-			held++
-		}
-	}
-	if held < 100 {
-		t.Errorf("only %d lists are series", held)
-	}
+	wantOfShortLists(t, "SeriesIn", pool, impl.SeriesIn, isSeriesSlowly)
 }
 
 func TestPromise26Order(t *testing.T) {

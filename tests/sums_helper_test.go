@@ -240,6 +240,32 @@ func wantGathered(t *testing.T, call string, got terms, ok bool, list terms) {
 	}
 }
 
+// wantOfShortLists wants a function and a slow one to hold for the same lists of at most 3 of some terms.
+func wantOfShortLists(t *testing.T, call string, pool terms, in, slowly func(list terms) bool) {
+	t.Helper()
+	lists := []terms{{}}
+	for range 3 {
+		for _, list := range lists {
+			for _, x := range pool {
+				lists = append(lists, append(slices.Clone(list), x))
+			}
+		}
+	}
+	held := 0
+	for _, list := range lists {
+		want := slowly(list)
+		if got := in(list); got != want {
+			t.Errorf("%s of %s is %v", call, brief(list), got)
+		}
+		if want {
+			held++
+		}
+	}
+	if held < 100 {
+		t.Errorf("%s holds for %d lists only", call, held)
+	}
+}
+
 // wantOwnMemory calls f with sums that have room behind them, and wants these and that to be left when the result is changed and grows.
 func wantOwnMemory(t *testing.T, call string, f func(a, b terms) terms) {
 	t.Helper()
