@@ -114,6 +114,21 @@ func signsOf(s string) iter.Seq[letter] {
 	}
 }
 
+// generatorsOnly reports whether a text has no signs but generators.
+func generatorsOnly(s string) bool {
+	for x := range signsOf(s) {
+		if !x.known() || x.sign() < 0 {
+			return false
+		}
+	}
+	return true
+}
+
+// generatorText returns the generator with an index as a text.
+func generatorText(g int) string {
+	return word{letter('a' + g)}.text()
+}
+
 // reduced returns the letters of all parts, one part behind the other, reduced.
 func reduced(parts ...iter.Seq[letter]) word {
 	w := word{}
