@@ -86,6 +86,15 @@ func (w word) with(x letter) word {
 	return append(w, x)
 }
 
+// sums returns, for each generator, how often it stands in the word less how often its inverse does.
+func (w word) sums() []int {
+	sums := make([]int, generatorCount)
+	for x := range w.letters(1) {
+		sums[x.index()] += x.sign()
+	}
+	return sums
+}
+
 // text returns the letters of the word as a text.
 func (w word) text() string {
 	text := make([]byte, len(w))
@@ -244,11 +253,7 @@ func WordSums(s string) ([]int, bool) {
 	if !ok {
 		return nil, false
 	}
-	sums := make([]int, generatorCount)
-	for x := range w.letters(1) {
-		sums[x.index()] += x.sign()
-	}
-	return sums, true
+	return w.sums(), true
 }
 
 // WordPut returns the word with four words, one for each generator, put in the place of its letters, their inverses for inverse letters, reduced at last, and true.
